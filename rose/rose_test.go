@@ -352,6 +352,55 @@ func TestLongTape(t *testing.T) {
 	}
 }
 
+// RO1: Each goes through the tapes of Less in their order, and not beyond the
+// one at which it is told to end.
+func TestEach(t *testing.T) {
+	g, given := many(2, number(5, 7)), []int{2, 1, 2}
+	all, _ := Less(g, given)
+	for end := 1; end <= len(all)+1; end++ {
+		var seen [][]int
+		err := Each(g, given, func(less []int) bool {
+			seen = append(seen, less)
+			return len(seen) != end
+		})
+		if want := all[:min(end, len(all))]; fmt.Sprint(seen) != fmt.Sprint(want) || err != nil {
+			t.Errorf("Each, to the end at %d: %v, %v, want %v", end, seen, err, want)
+		}
+	}
+}
+
+// RO1: Each returns the errors of Less, and then calls nothing.
+func TestErrorsOfEach(t *testing.T) {
+	for _, e := range []example{{g: either()}, {g: number(0, 1001)}, {g: number(0, 9)}, {g: just(1), tape: []int{0}}} {
+		_, want := Less(e.g, e.tape)
+		err := Each(e.g, e.tape, func(less []int) bool {
+			t.Errorf("Each(%v, %v) has %v", e.g, e.tape, less)
+			return true
+		})
+		if err == nil || plain.Told(err) != plain.Told(want) {
+			t.Errorf("Each(%v, %v): %v, want %v", e.g, e.tape, err, want)
+		}
+	}
+}
+
+// P2: whoever sees a tape may change it, without effect on the next ones.
+func TestEachIsNew(t *testing.T) {
+	g, given := both(number(0, 9), number(0, 9)), []int{7, 4}
+	want, _ := Less(g, given)
+	var seen []string
+	Each(g, given, func(less []int) bool {
+		seen = append(seen, fmt.Sprint(less))
+		less = less[:cap(less)]
+		for i := range less {
+			less[i] = 66
+		}
+		return true
+	})
+	if fmt.Sprint(seen) != fmt.Sprint(want) || !slices.Equal(given, []int{7, 4}) {
+		t.Errorf("Each, with changes: %v, tape %v, want %v", seen, given, want)
+	}
+}
+
 // P2: arguments stay as they are, also behind their length.
 func TestArgumentsStay(t *testing.T) {
 	memory := []int{2, 1, 2, 77, 78}
